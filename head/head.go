@@ -1,0 +1,101 @@
+// Package head: the two blocks that say what counts on a device.
+//
+// Each of the first two blocks holds a head, and the newer one counts. A head fills no more than one sector, so that a failure of power leaves the old head or the new one, never a mixture.
+package head
+
+import (
+	"store/api"
+	"store/volume"
+)
+
+// Where the parts of a head begin in its sector. What lies between the turn and the sum is noughts.
+const (
+	mark   = "store 1\n"
+	turnAt = len(mark)
+	turnTo = turnAt + 8
+	sumAt  = api.Sector - 4
+)
+
+// Head is the state of a store that was laid down as the turn-th. The count goes round behind the greatest number.
+type Head struct {
+	turn uint64
+}
+
+// Next is the head behind h.
+func (h Head) Next() Head { return Head{turn: h.turn + 1} }
+
+// block tells where h lies: never where the one ahead of it lies, which has to stay until h is sure.
+func (h Head) block() int { return int(h.turn % 2) }
+
+// newer holds two heads against each other as if the count had no end. Two that lie in different blocks are never the same.
+func (h Head) newer(g Head) bool { return int64(h.turn-g.turn) > 0 }
+
+// Lay writes a head and makes sure of it.
+func Lay(v *volume.Volume, h Head) {
+	var b [api.Block]byte
+	s := h.sector()
+	copy(b[:], s[:])
+	v.Lay(h.block(), b)
+	v.Settle()
+}
+
+// Newest gives the newer one of the heads that are whole (if none is, the one ahead of all), and tells whether both are whole.
+func Newest(v *volume.Volume) (newest Head, both bool) {
+	even, hasEven := read(v, 0)
+	odd, hasOdd := read(v, 1)
+	switch {
+	case hasEven && hasOdd && odd.newer(even):
+		return odd, true
+	case hasEven:
+		return even, hasOdd
+	case hasOdd:
+		return odd, false
+	}
+	return Head{}, false
+}
+
+// read gives the head that lies in a block, and tells whether it is whole. Only its sector counts: a failure of power may have left anything in the others.
+func read(v *volume.Volume, i int) (h Head, whole bool) {
+	b := v.Block(i)
+	h = Head{turn: number(b[turnAt:turnTo])}
+	if h.block() != i || h.sector() != [api.Sector]byte(b[:api.Sector]) {
+		return Head{}, false
+	}
+	return h, true
+}
+
+// sector is h as it lies on the device.
+func (h Head) sector() [api.Sector]byte {
+	var s [api.Sector]byte
+	copy(s[:], mark)
+	put(s[turnAt:turnTo], h.turn)
+	put(s[sumAt:], uint64(sum(s[:sumAt])))
+	return s
+}
+
+// put lays a number into bytes, the lowest first; number takes it out.
+func put(to []byte, n uint64) {
+	for i := range to {
+		to[i] = byte(n >> (8 * i))
+	}
+}
+
+func number(b []byte) uint64 {
+	var n uint64
+	for i, x := range b {
+		n |= uint64(x) << (8 * i)
+	}
+	return n
+}
+
+// sum is CRC-32, which no turning of one bit leaves as it was.
+func sum(b []byte) uint32 {
+	s := ^uint32(0)
+	for _, x := range b {
+		s ^= uint32(x)
+		for range 8 {
+			s = s>>1 ^ 0xEDB88320&-(s&1)
+		}
+	}
+	return ^s
+}
