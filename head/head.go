@@ -8,6 +8,9 @@ import (
 	"store/volume"
 )
 
+// Count is the number of heads, and of the first block that is none.
+const Count = 2
+
 // Where the parts of a head begin in its sector. What lies between the turn and the sum is noughts.
 const (
 	mark   = "store 1\n"
@@ -25,7 +28,7 @@ type Head struct {
 func (h Head) Next() Head { return Head{turn: h.turn + 1} }
 
 // block tells where h lies: never where the one ahead of it lies, which has to stay until h is sure.
-func (h Head) block() int { return int(h.turn % 2) }
+func (h Head) block() int { return int(h.turn % Count) }
 
 // newer holds two heads against each other as if the count had no end. Two that lie in different blocks are never the same.
 func (h Head) newer(g Head) bool { return int64(h.turn-g.turn) > 0 }

@@ -11,15 +11,20 @@ import (
 // Volume is a device of a size that can hold a store.
 type Volume struct {
 	api.Device
+	size int
 }
 
 // On takes a device, or throws ErrSize.
 func On(d api.Device) *Volume {
-	if n := count(d); n < api.MinBlocks || n > api.MaxBlocks {
+	n := count(d)
+	if n < api.MinBlocks || n > api.MaxBlocks {
 		fault.Throw("size", api.ErrSize)
 	}
-	return &Volume{Device: d}
+	return &Volume{Device: d, size: n}
 }
+
+// Size tells how many blocks there are, without asking the device anew: it might throw, or say another number.
+func (v *Volume) Size() int { return v.size }
 
 // count takes a device that cannot even say how many blocks it has (there may be no device at all) for one that has none.
 func count(d api.Device) (n int) {

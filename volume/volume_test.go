@@ -38,6 +38,22 @@ func TestSize(t *testing.T) {
 	}
 }
 
+// fickle is a device that says another number each time.
+type fickle struct {
+	api.Device
+	asked int
+}
+
+func (f *fickle) Blocks() int { f.asked++; return 19 + f.asked }
+
+func TestSizeIsAskedOnce(t *testing.T) {
+	f := &fickle{}
+	v := On(f)
+	if v.Size() != 20 || v.Size() != 20 || f.asked != 1 {
+		t.Errorf("P2: %d blocks, asked %d times", v.Size(), f.asked)
+	}
+}
+
 func TestNoDevice(t *testing.T) {
 	for _, d := range []api.Device{nil, (*api.Disk)(nil), sized{}} {
 		if err := fault.Catch("On", func() { On(d) }); !errors.Is(err, api.ErrSize) {
