@@ -5,27 +5,32 @@ package head
 
 import (
 	"store/api"
+	"store/pack"
 	"store/volume"
 )
 
 // Count is the number of heads, and of the first block that is none.
 const Count = 2
 
-// Where the parts of a head begin in its sector. What lies between the turn and the sum is noughts.
+// Where the parts of a head begin in its sector. What lies between the root and the sum is noughts.
 const (
 	mark   = "store 1\n"
 	turnAt = len(mark)
-	turnTo = turnAt + 8
-	sumAt  = api.Sector - 4
+	rootAt = turnAt + 8
+	rootTo = rootAt + 2
 )
 
 // Head is the state of a store that was laid down as the turn-th. The count goes round behind the greatest number.
 type Head struct {
 	turn uint64
+	root int
 }
 
-// Next is the head behind h.
-func (h Head) Next() Head { return Head{turn: h.turn + 1} }
+// Root tells in which block the root of the store's tree lies.
+func (h Head) Root() int { return h.root }
+
+// Next is the head behind h, of a tree with this root.
+func (h Head) Next(root int) Head { return Head{turn: h.turn + 1, root: root} }
 
 // block tells where h lies: never where the one ahead of it lies, which has to stay until h is sure.
 func (h Head) block() int { return int(h.turn % Count) }
@@ -60,7 +65,7 @@ func Newest(v *volume.Volume) (newest Head, both bool) {
 // read gives the head that lies in a block, and tells whether it is whole. Only its sector counts: a failure of power may have left anything in the others.
 func read(v *volume.Volume, i int) (h Head, whole bool) {
 	b := v.Block(i)
-	h = Head{turn: number(b[turnAt:turnTo])}
+	h = Head{turn: pack.Number(b[turnAt:rootAt]), root: int(pack.Number(b[rootAt:rootTo]))}
 	if h.block() != i || h.sector() != [api.Sector]byte(b[:api.Sector]) {
 		return Head{}, false
 	}
@@ -71,34 +76,8 @@ func read(v *volume.Volume, i int) (h Head, whole bool) {
 func (h Head) sector() [api.Sector]byte {
 	var s [api.Sector]byte
 	copy(s[:], mark)
-	put(s[turnAt:turnTo], h.turn)
-	put(s[sumAt:], uint64(sum(s[:sumAt])))
+	pack.Put(s[turnAt:rootAt], h.turn)
+	pack.Put(s[rootAt:rootTo], uint64(h.root))
+	pack.Seal(s[:])
 	return s
-}
-
-// put lays a number into bytes, the lowest first; number takes it out.
-func put(to []byte, n uint64) {
-	for i := range to {
-		to[i] = byte(n >> (8 * i))
-	}
-}
-
-func number(b []byte) uint64 {
-	var n uint64
-	for i, x := range b {
-		n |= uint64(x) << (8 * i)
-	}
-	return n
-}
-
-// sum is CRC-32, which no turning of one bit leaves as it was.
-func sum(b []byte) uint32 {
-	s := ^uint32(0)
-	for _, x := range b {
-		s ^= uint32(x)
-		for range 8 {
-			s = s>>1 ^ 0xEDB88320&-(s&1)
-		}
-	}
-	return ^s
 }

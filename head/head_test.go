@@ -1,12 +1,12 @@
 package head
 
 import (
-	"hash/crc32"
 	"math"
 	"testing"
 
 	"store/api"
 	"store/fault"
+	"store/pack"
 	"store/volume"
 )
 
@@ -22,28 +22,6 @@ func laid(turns ...uint64) *api.Disk {
 func newest(d *api.Disk) (uint64, bool) {
 	h, both := Newest(volume.On(d))
 	return h.turn, both
-}
-
-func TestSum(t *testing.T) {
-	for n := range 40 {
-		b := make([]byte, n)
-		for i := range b {
-			b[i] = byte(i*i*31 + n)
-		}
-		if got, want := sum(b), crc32.ChecksumIEEE(b); got != want {
-			t.Errorf("sum of %d bytes: %x, want %x", n, got, want)
-		}
-	}
-}
-
-func TestNumber(t *testing.T) {
-	for _, n := range []uint64{0, 1, 255, 256, 1 << 31, 0x0102030405060708, math.MaxUint64} {
-		var b [8]byte
-		put(b[:], n)
-		if number(b[:]) != n {
-			t.Errorf("%d comes out as %d", n, number(b[:]))
-		}
-	}
 }
 
 func TestNewest(t *testing.T) {
@@ -79,13 +57,37 @@ func TestNextCounts(t *testing.T) {
 			d := laid(a, b)
 			h, _ := Newest(volume.On(d))
 			for range 3 {
-				h = h.Next()
+				h = h.Next(0)
 				Lay(volume.On(d), h)
 				if n, _ := newest(d); n != h.turn || d.Pending() != 0 {
 					t.Fatalf("P3: %d and %d were there, %d was laid: newest %d", a, b, h.turn, n)
 				}
 			}
 		}
+	}
+}
+
+// A head brings its root with it, and only its own.
+func TestRoot(t *testing.T) {
+	d := laid(5, 6)
+	h, _ := Newest(volume.On(d))
+	for _, root := range []int{2, 0, 255, 256, 399, 0} {
+		h = h.Next(root)
+		Lay(volume.On(d), h)
+		if got, both := Newest(volume.On(d.After(nil))); got != h || got.Root() != root || !both {
+			t.Errorf("P8: a head with root %d comes back as %v", root, got)
+		}
+	}
+}
+
+func TestLayout(t *testing.T) {
+	b := make([]byte, api.Sector)
+	copy(b, "store 1\n\x05\x00\x00\x00\x00\x00\x00\x01\x8f\x01")
+	pack.Seal(b)
+	d := api.NewDisk(api.MinBlocks)
+	Lay(volume.On(d), Head{turn: 1<<56 + 5, root: 399})
+	if got := d.Bytes()[api.Block : 2*api.Block]; got != string(b)+string(make([]byte, api.Block-api.Sector)) {
+		t.Errorf("a head is laid as %q, want %q", got, b)
 	}
 }
 

@@ -525,6 +525,15 @@ func TestNoRoom(t *testing.T) {
 	}
 }
 
+// Half of the blocks behind the heads are the tree's: of 8 blocks three, for a branch and two leaves, of which rising keys leave the first one with three, and fill the second with five.
+func TestHalfOfTheBlocks(t *testing.T) {
+	s := opened(t, 8)
+	for i := range 8 {
+		tells(t, "P5: Put", s.Put(number(i), "twelve bytes"), api.OK)
+	}
+	tells(t, "P5: Put without room", s.Put(number(8), "twelve bytes"), api.ErrSpace)
+}
+
 // shared: do two texts lie in the same memory?
 func shared(a, b string) bool {
 	return len(a) > 0 && len(b) > 0 && unsafe.StringData(a) == unsafe.StringData(b)

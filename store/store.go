@@ -7,14 +7,28 @@ import (
 	"store/api"
 	"store/fault"
 	"store/head"
+	"store/space"
 	"store/tree"
 	"store/volume"
 )
 
-// Store is open on a device. One that is closed has nothing any more: it is as if it had never been opened.
+// state is what may be done with a store.
+type state int
+
+const (
+	closed state = iota // nothing: so is a store that was never opened
+	found               // all; what it was opened with may be what a Sync left that failed, and not sure
+	sure                // all; what it has on the device is sure
+	broken              // it may be read, but not be changed any more
+)
+
+// Store is open on a device. One that is closed has nothing any more.
 type Store struct {
+	state  state
 	volume *volume.Volume
-	tree   tree.Tree
+	head   head.Head
+	laid   tree.Tree // what counts on the device, by the head
+	tree   tree.Tree // what the store has
 }
 
 // Format lays an empty store on a device (P3).
@@ -22,9 +36,9 @@ func Format(d api.Device) error {
 	return fault.Catch("Format", func() {
 		v := volume.On(d)
 		h, _ := head.Newest(v)
-		// The elder head goes first: until the new one is sure, what counted still counts, and nothing older does.
+		// The elder head goes first: until the new one is sure, what counted still counts, and nothing older does. Behind the second one, nothing on the device leads to what counted any more.
 		for range head.Count {
-			h = h.Next()
+			h = h.Next(tree.Nowhere)
 			head.Lay(v, h)
 		}
 	})
@@ -35,19 +49,30 @@ func Open(d api.Device) (*Store, error) {
 	var s *Store
 	err := fault.Catch("Open", func() {
 		v := volume.On(d)
+		h, both := head.Newest(v)
 		// Since a Format both heads are whole; where one is not, it may be the newer, and the other one out of date.
-		if _, both := head.Newest(v); !both {
+		if !both {
 			fault.Throw("heads", api.ErrCorrupt)
 		}
-		s = &Store{volume: v}
+		t := read(v, h.Root())
+		s = &Store{state: found, volume: v, head: h, laid: t, tree: t}
 	})
 	return s, err
+}
+
+// read reads a tree, of which no two nodes may lie in one block, nor one where the heads are.
+func read(v *volume.Volume, root int) tree.Tree {
+	blocks := space.Of(v.Size(), head.Count)
+	return tree.Read(root, func(at int) [api.Block]byte {
+		blocks.Use(at)
+		return v.Block(at)
+	})
 }
 
 // Put gives a key a value (P5).
 func (s *Store) Put(key string, value string) error {
 	return fault.Catch("Put", func() {
-		s.needOpen()
+		s.needChangeable()
 		needKey(key)
 		needValue(value)
 		next := s.tree.Put(fresh(api.Pair{Key: key, Value: value}))
@@ -61,7 +86,7 @@ func (s *Store) Put(key string, value string) error {
 // Delete takes a key away (P5).
 func (s *Store) Delete(key string) error {
 	return fault.Catch("Delete", func() {
-		s.needOpen()
+		s.needChangeable()
 		needKey(key)
 		s.tree = s.tree.Delete(key)
 	})
@@ -101,7 +126,37 @@ func (s *Store) All(lo string, hi string) func(yield func(p api.Pair, err error)
 }
 
 // Sync makes sure of everything (P8).
-func (s *Store) Sync() error { return fault.Catch("Sync", s.needOpen) }
+func (s *Store) Sync() error {
+	return fault.Catch("Sync", func() {
+		s.needChangeable()
+		was := s.state
+		s.state = broken // and it stays so if an error breaks off the work
+		// Nothing may be written over for the sake of a head that is not sure itself: behind a failure of power the one ahead of it may count again.
+		if was == found {
+			s.volume.Settle()
+		}
+		s.lay()
+		s.state = sure
+	})
+}
+
+// lay lays the tree down beside the one that counts, and is sure of it ahead of the head by which it counts instead.
+func (s *Store) lay() {
+	blocks := space.Of(s.volume.Size(), head.Count)
+	s.laid.Blocks(blocks.Use)
+	next := s.tree.Laid(func(b [api.Block]byte) int {
+		at := blocks.Take()
+		s.volume.Lay(at, b)
+		return at
+	})
+	// A tree that was changed has a new root, in a block that was free, or none any more.
+	if next.Root() != s.laid.Root() {
+		s.volume.Settle()
+		s.head = s.head.Next(next.Root())
+		head.Lay(s.volume, s.head)
+	}
+	s.laid, s.tree = next, next
+}
 
 // Close ends it (P9).
 func (s *Store) Close() error {
@@ -115,8 +170,15 @@ func (s *Store) Close() error {
 func (s *Store) room() int { return (s.volume.Size() - head.Count) / 2 }
 
 func (s *Store) needOpen() {
-	if s == nil || s.volume == nil {
+	if s == nil || s.state == closed {
 		fault.Throw("store", api.ErrClosed)
+	}
+}
+
+func (s *Store) needChangeable() {
+	s.needOpen()
+	if s.state == broken {
+		fault.Throw("store", api.ErrReadOnly)
 	}
 }
 

@@ -296,7 +296,7 @@ func broken(t *testing.T, what string, left *api.Disk, was head.Head, stays bool
 		opens(t, what, left, api.OK, api.ErrCorrupt)
 	} else {
 		opens(t, what, left, api.OK)
-		if now := newest(left); now != was && now != was.Next() && now != was.Next().Next() {
+		if now := newest(left); now != was && now != was.Next(0) && now != was.Next(0).Next(0) {
 			t.Errorf("P3: %s: something older counts", what)
 		}
 	}

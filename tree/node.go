@@ -9,22 +9,27 @@ import (
 // node is a leaf or a branch. It is never changed: a change makes another one.
 type node interface {
 	size() int
-	count() int // of nodes, with those below it
+	block() [api.Block]byte
 	first() string
+	kids() []kid
 	leaf(key string) leaf
 	halves() (left, right node)
 	joined(right node) node // with one of its own kind
 	changed(key string, change func(leaf) leaf) node
+	with(change func(kid) kid) node // with each of its kids changed
 	feed(lo, hi string, take func(api.Pair) bool) (more bool)
+	sound(from, to string) (high int) // throws ErrCorrupt unless it and all below it are well built, for keys from and to these
 }
 
 type leaf []pair
 
 func (l leaf) size() int { return measure(l) }
 
-func (l leaf) count() int { return 1 }
+func (l leaf) block() [api.Block]byte { return block(leafKind, l) }
 
 func (l leaf) first() string { return l[0].Key }
+
+func (l leaf) kids() []kid { return nil }
 
 func (l leaf) leaf(string) leaf { return l }
 
@@ -34,8 +39,10 @@ func (l leaf) joined(right node) node { return slices.Concat(l, right.(leaf)) }
 
 func (l leaf) changed(_ string, change func(leaf) leaf) node { return change(l) }
 
-// with is l with a pair, which takes the place of one that has its key.
-func (l leaf) with(p pair) leaf {
+func (l leaf) with(func(kid) kid) node { return l }
+
+// put is l with a pair, which takes the place of one that has its key.
+func (l leaf) put(p pair) leaf {
 	i, has := find(l, p.Key)
 	to := i
 	if has {
@@ -44,11 +51,9 @@ func (l leaf) with(p pair) leaf {
 	return slices.Replace(slices.Clone(l), i, to, p)
 }
 
+// without is l without a key that it has.
 func (l leaf) without(key string) leaf {
-	i, has := find(l, key)
-	if !has {
-		return l
-	}
+	i, _ := find(l, key)
 	return slices.Delete(slices.Clone(l), i, i+1)
 }
 
@@ -62,19 +67,20 @@ func (l leaf) feed(lo, hi string, take func(api.Pair) bool) (more bool) {
 	return true
 }
 
+func (l leaf) sound(from, to string) (high int) {
+	need(len(l) > 0 && l.first() != "" && rise(l, from, to))
+	return 1
+}
+
 type branch []kid
 
 func (b branch) size() int { return measure(b) }
 
-func (b branch) count() int {
-	n := 1
-	for _, k := range b {
-		n += k.node.count()
-	}
-	return n
-}
+func (b branch) block() [api.Block]byte { return block(branchKind, b) }
 
 func (b branch) first() string { return b[0].from }
+
+func (b branch) kids() []kid { return b }
 
 // way tells below which kid a key belongs.
 func (b branch) way(key string) int {
@@ -109,13 +115,21 @@ func (b branch) fitted(i int) branch {
 	return slices.Replace(b, i, to, fit(b[i].from, n)...)
 }
 
-// fit gives the kids that a node becomes: two, if it is too big for one.
+// fit gives the kids that a node becomes: two, if it is too big for one. They lie nowhere yet.
 func fit(from string, n node) []kid {
 	if n.size() <= room {
-		return []kid{{from, n}}
+		return []kid{{from: from, node: n}}
 	}
 	left, right := n.halves()
-	return []kid{{from, left}, {right.first(), right}}
+	return []kid{{from: from, node: left}, {from: right.first(), node: right}}
+}
+
+func (b branch) with(change func(kid) kid) node {
+	to := slices.Clone(b)
+	for i, k := range b {
+		to[i] = change(k)
+	}
+	return to
 }
 
 func (b branch) feed(lo, hi string, take func(api.Pair) bool) (more bool) {
@@ -125,4 +139,18 @@ func (b branch) feed(lo, hi string, take func(api.Pair) bool) (more bool) {
 		}
 	}
 	return true
+}
+
+func (b branch) sound(from, to string) (high int) {
+	need(len(b) > 1 && b.first() == from && rise(b, from, to))
+	for i, k := range b {
+		end := to
+		if i+1 < len(b) {
+			end = b[i+1].from
+		}
+		below := k.node.sound(k.from, end)
+		need(k.node.size() >= least && (i == 0 || below == high))
+		high = below
+	}
+	return high + 1
 }

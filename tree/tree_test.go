@@ -30,7 +30,9 @@ func whole(t *testing.T, tree Tree, want map[string]string) {
 		}
 	}
 	count := 0
-	built(t, tree.top(), true, "", strings.Repeat("\xff", 9), &count)
+	if len(keys) > 0 {
+		built(t, tree.top(), true, "", strings.Repeat("\xff", 9), &count)
+	}
 	if count != tree.Nodes() {
 		t.Fatalf("%d nodes, told %d", count, tree.Nodes())
 	}
@@ -220,7 +222,7 @@ func TestOrders(t *testing.T) {
 						whole(t, tree, m)
 					}
 				}
-				if tree.Nodes() != 1 {
+				if tree.Nodes() != 0 {
 					t.Errorf("nothing is left, in %d nodes", tree.Nodes())
 				}
 			})
