@@ -221,7 +221,7 @@ func TestNothingIsLaidOver(t *testing.T) {
 	}
 }
 
-// Behind a Format nothing leads back to what was there: not even if a head is lost, or comes from elsewhere.
+// Behind a Format nothing leads back to what was there, not even a bit that is turned.
 func TestFormatForgets(t *testing.T) {
 	c := scene{"", 42, put(0, 10, longest), nothing}
 	d := c.sure(t)
