@@ -50,7 +50,7 @@ func Open(d api.Device) (*Store, error) {
 	err := fault.Catch("Open", func() {
 		v := volume.On(d)
 		h, both := head.Newest(v)
-		// Since a Format both heads are whole; where one is not, it may be the newer, and the other one out of date.
+		// Since a Format both heads are whole; where one is not, it may be the newer, and the other one out of date: it may even lead to blocks that a Sync has used again.
 		if !both {
 			fault.Throw("heads", api.ErrCorrupt)
 		}

@@ -199,13 +199,11 @@ func TestNothingIsLaidAheadOfSync(t *testing.T) {
 func TestNothingIsLaidOver(t *testing.T) {
 	for _, c := range scenes() {
 		d := c.sure(t)
-		old, used := d.After(nil), map[int]int{}
-		open(t, &other{Device: d, read: func(i int) ([]byte, error) { used[i]++; return d.Read(i) }})
-		heads := 0
+		old, inUse, heads := d.After(nil), used(t, d), 0
 		s := open(t, &other{Device: d, write: func(i int, b []byte) error {
 			if i < head.Count {
 				heads++
-			} else if used[i] > 0 {
+			} else if inUse[i] > 0 {
 				t.Errorf("P8: %s: block %d is laid over, which is in use", c.name, i)
 			}
 			return d.Write(i, b)
